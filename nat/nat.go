@@ -10,6 +10,9 @@ import (
 
 const limbBits = 32
 
+// shortFactor is the length up to which limb by limb is the quickest way to a product, by measurement.
+const shortFactor = 100
+
 // Norm: the number without noughts at its end. (P1.1)
 func Norm(a api.Nat) api.Nat {
 	a = trim(a)
@@ -87,9 +90,18 @@ func Sub(a, b api.Nat) (api.Nat, bool) {
 // Mul: the product. (P1.3)
 func Mul(a, b api.Nat) api.Nat {
 	a, b = trim(a), trim(b)
+	if len(a) > len(b) {
+		a, b = b, a
+	}
 	out := make(api.Nat, len(a)+len(b))
-	for i := range len(a) {
-		out[i+len(b)] = addTimes(out[i:i+len(b)], b, a[i])
+	if len(a) <= shortFactor {
+		for i := range len(a) {
+			out[i+len(b)] = addTimes(out[i:i+len(b)], b, a[i])
+		}
+		return trim(out)
+	}
+	for at := 0; at < len(b); at += len(a) {
+		addInto(out[at:], byHalves(a, b[at:min(at+len(a), len(b))]))
 	}
 	return trim(out)
 }
@@ -172,6 +184,34 @@ func addTimes(row, b api.Nat, x uint32) uint32 {
 		carry = step >> limbBits
 	}
 	return uint32(carry)
+}
+
+// byHalves is the product of a and of b, which is no longer than a, from three products of half the length instead of four:
+// at api.MaxLimbs limbs, limb by limb would take the better part of a minute.
+func byHalves(a, b api.Nat) api.Nat {
+	half := len(a) / 2
+	cut := min(half, len(b))
+	low := Mul(a[:half], b[:cut])
+	high := Mul(a[half:], b[cut:])
+	mid := Mul(Add(a[:half], a[half:]), Add(b[:cut], b[cut:]))
+	mid, _ = Sub(mid, Add(low, high))
+	out := make(api.Nat, len(a)+len(b))
+	copy(out, low)
+	copy(out[2*half:], high)
+	addInto(out[half:], mid)
+	return out
+}
+
+// addInto adds b to the limbs of a, where the sum has room.
+func addInto(a, b api.Nat) {
+	b = trim(b)
+	var carry uint32
+	for i := range len(b) {
+		a[i], carry = bits.Add32(a[i], b[i], carry)
+	}
+	for i := len(b); carry != 0; i++ {
+		a[i], carry = bits.Add32(a[i], 0, carry)
+	}
 }
 
 // raise shifts the limbs of a up by n, below 32; the highest of them must have room for it.

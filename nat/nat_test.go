@@ -144,6 +144,22 @@ func TestMul(t *testing.T) {
 	}
 }
 
+// Long factors are halved, and the halves halved again: the lengths lie around those where that begins.
+func TestMulLong(t *testing.T) {
+	for _, sizes := range [][2]int{
+		{99, 99}, {100, 100}, {100, 101}, {101, 101}, {101, 102}, {102, 102}, {101, 150}, {101, 151}, {101, 152}, {101, 202}, {101, 203}, {101, 1000}, {130, 390}, {150, 1},
+		{199, 200}, {201, 201}, {202, 202}, {203, 203}, {204, 310}, {205, 2051}, {403, 404}, {407, 815}, {1001, 1003},
+	} {
+		for _, a := range longs(sizes[0]) {
+			for _, b := range longs(sizes[1]) {
+				want := rows(a, b)
+				wantList(t, fmt.Sprintf("Mul of %d and %d limbs", sizes[0], sizes[1]), nat.Mul(a, b), want)
+				wantList(t, fmt.Sprintf("Mul of %d and %d limbs", sizes[1], sizes[0]), nat.Mul(b, a), want)
+			}
+		}
+	}
+}
+
 // P1.4
 
 func TestShl(t *testing.T) {

@@ -94,3 +94,22 @@ func TestOneListTwice(t *testing.T) {
 		}
 	}
 }
+
+// R4 in long lists, where factors are halved on the way.
+func TestOwnMemoryLong(t *testing.T) {
+	for _, long := range longs(250) {
+		a, b := roomy(long...), roomy(longs(333)[1]...)
+		fullA, fullB := slices.Clone(a[:cap(a)]), slices.Clone(b[:cap(b)])
+		first, second := nat.Mul(a, b), nat.Mul(a, b)
+		want := slices.Clone(first)
+		scribble(first)
+		if !slices.Equal(a[:cap(a)], fullA) || !slices.Equal(b[:cap(b)], fullB) {
+			t.Errorf("Mul changes or shares long lists that are handed in")
+		}
+		scribble(a)
+		scribble(b)
+		if !slices.Equal(second, want) {
+			t.Errorf("answers of Mul share memory with each other or with long lists that are handed in")
+		}
+	}
+}

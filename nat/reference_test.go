@@ -80,6 +80,24 @@ func product(a, b digits) digits {
 	return out
 }
 
+// rows is the product of two long lists, limb by limb, where binary digits would take too long.
+func rows(a, b list) list {
+	out := make(list, len(a)+len(b))
+	for i, x := range a {
+		var carry uint64
+		for j, y := range b {
+			carry += uint64(x)*uint64(y) + uint64(out[i+j])
+			out[i+j] = uint32(carry)
+			carry >>= 32
+		}
+		out[i+len(b)] = uint32(carry)
+	}
+	for len(out) > 0 && out[len(out)-1] == 0 {
+		out = out[:len(out)-1]
+	}
+	return out
+}
+
 func doubled(a digits, n int) digits {
 	return append(make(digits, n), a...)
 }
@@ -119,6 +137,21 @@ func samples() []list {
 		out = append(out, a)
 	}
 	return out
+}
+
+// longs are lists of the given length: full, mixed, and with noughts in their lower or upper half.
+func longs(size int) []list {
+	full, even, low, upper, state := make(list, size), make(list, size), make(list, size), make(list, size), uint64(size)
+	for i := range size {
+		state = state*6364136223846793005 + 1442695040888963407
+		full[i], even[i] = top, mixed(state>>32)
+		if i < size/2 {
+			low[i] = even[i]
+		} else {
+			upper[i] = even[i]
+		}
+	}
+	return []list{full, even, low, upper}
 }
 
 func mixed(x uint64) uint32 {
